@@ -368,18 +368,25 @@ func TestNodeOfRefusesOtherSizes(t *testing.T) {
 		for size := range len(s) {
 			wantNoNode(t, s[:size])
 		}
-		for from := range len(s) {
-			if want := shortNode(s[from:]); want != nil {
-				wantNode(t, s[from:], *want)
-			} else {
-				wantNoNode(t, s[from:])
-			}
+		for at := range len(s) {
+			wantAsModel(t, s[at:])
+			wantAsModel(t, s[:at]+s[at+1:])
 		}
 		for c := range 256 {
 			wantNoNode(t, s+string([]byte{byte(c)}))
 		}
 		wantNoNode(t, s+s)
 		wantNoNode(t, s+textOf(1000))
+	}
+}
+
+// wantAsModel is for texts that may be another node's by chance.
+func wantAsModel(t *testing.T, s string) {
+	t.Helper()
+	if want := shortNode(s); want != nil {
+		wantNode(t, s, *want)
+	} else {
+		wantNoNode(t, s)
 	}
 }
 
