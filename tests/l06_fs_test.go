@@ -270,13 +270,17 @@ func wantFsAsModel(t *testing.T, list []string) bool {
 	return true
 }
 
-// manyBranches gives right branches of many shapes, by a row of numbers.
-func manyBranches(count int, each func(f fs)) {
-	seed := 1
-	next := func(below int) int {
+// dice gives a row of numbers, the same one each time.
+func dice(seed int) func(below int) int {
+	return func(below int) int {
 		seed = (seed*1103515245 + 12345) % (1 << 31)
 		return (seed >> 8) % below
 	}
+}
+
+// manyBranches gives right branches of many shapes, by a row of numbers.
+func manyBranches(count int, each func(f fs)) {
+	next := dice(1)
 	for range count {
 		nodes, data := 2+next(9), 1+next(36)
 		var free []int
