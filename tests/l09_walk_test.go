@@ -537,9 +537,8 @@ func TestWalkOfEachPath(t *testing.T) {
 		}
 	}
 	for _, f := range wrongTrees() {
-		for _, p := range append([]string{"/", "/a", "/b", "/a/a", "/a/x", "/b/x", "/a/b", "/a/a/a/a", "/a/a/a/a/a", "/~", "/a/~", "", "a", "/a/"}, longNames...) {
+		for _, p := range append(askedPaths(f), "/b", "/a/x", "/b/x", "/a/a/a/a/a", "/abcdef/a") {
 			wantWalk(t, f, p, nil)
-			wantWalk(t, f, "/"+p, nil)
 		}
 		wantHidden(t, f)
 	}
