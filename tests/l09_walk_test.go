@@ -242,6 +242,14 @@ func wrongTrees() map[string]fs {
 	return all
 }
 
+func allTrees() map[string]fs {
+	all := wrongTrees()
+	for name, f := range rightTrees() {
+		all["right: "+name] = f
+	}
+	return all
+}
+
 // namedBy gives for each node the directory that names it, and how; false,
 // where one is named twice, or what a directory holds is none of a right one's.
 func namedBy(f fs) (map[int]int, map[int]string, bool) {
@@ -809,11 +817,7 @@ func TestTurnedNodes(t *testing.T) {
 }
 
 func TestWalksLeaveArguments(t *testing.T) {
-	all := wrongTrees()
-	for name, f := range rightTrees() {
-		all["right: "+name] = f
-	}
-	for name, f := range all {
+	for name, f := range allTrees() {
 		f.Data = ownTexts(f.Data)
 		room, same := roomyFs(f)
 		impl.FsOk(room)
